@@ -333,8 +333,14 @@ func TestAskedInOrderOfWhatIsNotRight(t *testing.T) {
 	all := []impl.Ace{allow(impl.WhEvery, 0, 0, 255)}
 	ask := func(what string, l []impl.Ace, owner int64, group int64, c impl.Cred) {
 		t.Helper()
-		if got := impl.NfsGives(l, owner, group, c); got != 0 || impl.NfsMay(l, owner, group, c, 1) || impl.NfsMay(l, owner, group, c, 255) {
-			t.Errorf("%s: got %d", what, got)
+		if got := impl.NfsGives(l, owner, group, c); got != 0 {
+			t.Errorf("%s: NfsGives: got %d", what, got)
+		}
+		// A want of 0 is the edge: 0 is also what is given where nothing is.
+		for _, want := range []int64{0, 1, 128, 255, -1, 256} {
+			if impl.NfsMay(l, owner, group, c, want) {
+				t.Errorf("%s: NfsMay of a want of %d", what, want)
+			}
 		}
 	}
 	for _, wrong := range append(wrongLists(), tooLongLists()...) {
