@@ -429,6 +429,48 @@ func TestNothingIsNamedByTooLongAPart(t *testing.T) {
 	}
 }
 
+// Each fault that the chapter names comes ahead of a last part that is too long, also that there is no time left.
+func TestTooLongAPartBehindAllFaults(t *testing.T) {
+	without2 := rung{"without 2 where it comes to", impl.ErrAccess, func(t *impl.Tree, x *asked) { t.Nodes[1].Acl = only(1) }}
+	first := []rung{
+		{"too long a part", impl.ErrRange, func(t *impl.Tree, x *asked) { t.Nodes[7].Body = "d/" + part13 }},
+		{"MaxTime", impl.ErrFull, late},
+	}
+	crowded := rung{"MaxEntries", impl.ErrFull, func(t *impl.Tree, x *asked) { crowd(t) }}
+	for _, call := range makers {
+		x := asked{call: call, c: asOther, path: "/ln/"}
+		if call == "Symlink" {
+			x.body = "x"
+		}
+		taken := rung{"none free", impl.ErrFull, func(t *impl.Tree, x *asked) { t.Nodes = t.Nodes[:9] }}
+		climb(t, yard(), x, slices.Concat(first, []rung{taken, crowded, without2})...)
+	}
+	climb(t, yard(), asked{call: "Link", c: asOther, old: "/f", path: "/ln/"}, slices.Concat(first, []rung{
+		{"MaxLinks", impl.ErrFull, func(t *impl.Tree, x *asked) {
+			t.Nodes[2].Names, t.Nodes[3].Links = []impl.Entry{at("1", 4), at("2", 4), at("3", 4), at("4", 4)}, 5
+		}},
+		crowded, without2,
+		{"a directory", impl.ErrIsDir, func(t *impl.Tree, x *asked) { x.old = "/d" }},
+		{"nothing", impl.ErrNone, func(t *impl.Tree, x *asked) { x.old = "/none" }},
+	})...)
+	climb(t, yard(), asked{call: "Rename", c: asOther, old: "/f", path: "/ln/"}, slices.Concat(first, []rung{
+		crowded,
+		{"sticky", impl.ErrOwner, func(t *impl.Tree, x *asked) { t.Nodes[0].Extra = impl.ExSticky }},
+		without2,
+		{"without 2 where it was", impl.ErrAccess, func(t *impl.Tree, x *asked) { t.Nodes[0].Acl = only(5) }},
+		{"no old name", impl.ErrState, func(t *impl.Tree, x *asked) { x.old = "/d/." }},
+		{"nothing", impl.ErrNone, func(t *impl.Tree, x *asked) { x.old = "/none" }},
+	})...)
+	tree := changed(yard(), func(t *impl.Tree) {
+		t.Now, t.Nodes[7].Body = impl.MaxTime, "d/"+part13
+		crowd(t)
+	})
+	wantCode(t, tree, asked{call: "Rename", c: asOther, old: "/d", path: "/ln/"}, impl.ErrRange)
+	wantCode(t, tree, asked{call: "Rename", c: asOther, old: "/d/g", path: "/ln/"}, impl.ErrFull)
+	tree.Now--
+	wantCode(t, tree, asked{call: "Rename", c: asOther, old: "/d/g", path: "/ln/"}, impl.ErrRange)
+}
+
 func TestWhatIsMadeByHand(t *testing.T) {
 	list := masked(named(5, 6, 8, 3), named(7, 1), 6)
 	born := func(user int64, mask int64, other int64) impl.Acl {

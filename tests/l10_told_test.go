@@ -203,6 +203,10 @@ func ownAsk(t impl.Tree, x asked) told {
 	if out.tree.Now > 1000000 {
 		return told{code: impl.ErrFull}
 	}
+	// What stands at the end of a link's body may be longer than an entry's name: refused behind all that is named.
+	if slices.ContainsFunc(spots(out.tree), func(s spot) bool { return len(s.name) > 12 }) {
+		return told{code: impl.ErrRange}
+	}
 	return out
 }
 
@@ -298,10 +302,6 @@ func ownPlace(t impl.Tree, c impl.Cred, path string) (spot, int64) {
 	w := ownWalk(t, c, path, false)
 	if w.Code != impl.OK {
 		return spot{}, w.Code
-	}
-	// What stands at the end of a link's body may be longer than an entry's name: refused as in a path.
-	if len(w.Name) > 12 {
-		return spot{}, impl.ErrRange
 	}
 	if w.Node > 0 {
 		return spot{}, impl.ErrThere
@@ -428,8 +428,6 @@ func ownRenamed(t impl.Tree, x asked) told {
 	n := t.Nodes[from.Node-1]
 	dir := n.Kind == impl.KdDir
 	switch {
-	case len(to.Name) > 12:
-		return told{code: impl.ErrRange}
 	case to.Name == "":
 		return told{code: impl.ErrState}
 	case !ownMay(t.Nodes[from.Dir-1], x.c, 3), !ownMay(t.Nodes[to.Dir-1], x.c, 3):
