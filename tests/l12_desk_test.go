@@ -154,7 +154,7 @@ func TestNfsByHand(t *testing.T) {
 	dir, file, inner := "A::OWNER@:rwxa,A::GROUP@:rx,D::GROUP@:wa", "A::OWNER@:rwa,D::OWNER@:x,A::GROUP@:r,D::GROUP@:wxa", "A::OWNER@:rwxa,A::GROUP@:x,D::GROUP@:rwa,A::EVERYONE@:x"
 	wantRows(t, append(slices.Clone(made), deskRow{"nfs /", "A::OWNER@:rwxa,A::GROUP@:rx,D::GROUP@:wa,A::EVERYONE@:rx"}, deskRow{"nfs /d", dir}, deskRow{"nfs /d/", dir}, deskRow{"nfs /ld", dir}, deskRow{"nfs /ld/", dir}, deskRow{"nfs /ld/.", dir}, deskRow{"nfs /d/f", file}, deskRow{"nfs /ld/f", file}, deskRow{"nfs /lf", file}, deskRow{"nfs //d//e", inner},
 		deskRow{"nfs /none", "error 6"}, deskRow{"nfs /ln", "error 6"}, deskRow{"nfs /d/none", "error 6"}, deskRow{"nfs /none/x", "error 6"}, deskRow{"nfs /d/f/", "error 12"}, deskRow{"nfs /lf/", "error 12"}, deskRow{"nfs /d/f/x", "error 12"}, deskRow{"nfs /lo", "error 14"}, deskRow{"nfs /lo/x", "error 14"},
-		deskRow{"nfs x", "error 1"}, deskRow{"nfs ", "error 1"}, deskRow{"nfs  /d", "error 1"}, deskRow{"nfs /d /d", "error 1"}, deskRow{"nfs /d ", "error 1"}, deskRow{"nfs /d\t", "error 1"}, deskRow{"nfs /" + part13, "error 8"}, deskRow{"nfs /" + strings.Repeat("a/", 29), "error 6"}, deskRow{"nfs /" + strings.Repeat("a/", 30), "error 1"},
+		deskRow{"nfs x", "error 1"}, deskRow{"nfs ", "error 1"}, deskRow{"nfs /d\t", "error 1"}, deskRow{"nfs /d\r", "error 1"}, deskRow{"nfs \t/d", "error 1"}, deskRow{"nfs /d\u00a0/d", "error 1"}, deskRow{"nfs /d\x00", "error 1"}, deskRow{"nfs /\xff", "error 1"}, deskRow{"nfs /" + part13, "error 8"}, deskRow{"nfs /" + strings.Repeat("a/", 29), "error 6"}, deskRow{"nfs /" + strings.Repeat("a/", 30), "error 1"},
 	)...)
 	// By who is not let in on the way; the list itself is told to all who come there.
 	wantRows(t, append(slices.Clone(made), deskRow{"as 5:7:", "ok"}, deskRow{"nfs /d", dir}, deskRow{"nfs /ld", dir}, deskRow{"nfs /d/f", "error 11"}, deskRow{"nfs /d/none", "error 11"}, deskRow{"nfs /lf", "error 11"}, deskRow{"nfs /d/.", "error 11"}, deskRow{"nfs /ln", "error 6"},
@@ -164,6 +164,34 @@ func TestNfsByHand(t *testing.T) {
 	wantRows(t, deskRow{"do create 0777 /f", "2"}, deskRow{"nfs /f", "A::OWNER@:rwxa,A::GROUP@:rx,D::GROUP@:wa,A::EVERYONE@:rx"}, deskRow{"do setacl user::rwx,user:5:rw-,user:17:--x,group::rw-,group:9:-w-,mask::r-x,other::r-- /f", "ok"},
 		deskRow{"nfs /f", "A::OWNER@:rwxa,A::u5:r,D::u5:wxa,A::u17:x,D::u17:rwa,A::GROUP@:r,D::GROUP@:wxa,D::g9:rwxa,A::EVERYONE@:r"}, deskRow{"do default user::---,group::---,other::--- /", "ok"}, deskRow{"nfs /", "A::OWNER@:rwxa,A::GROUP@:rx,D::GROUP@:wa,A::EVERYONE@:rx"},
 		deskRow{"do chmod 0700 /f", "ok"}, deskRow{"nfs /f", "A::OWNER@:rwxa,D::u5:rwxa,D::u17:rwxa,D::GROUP@:rwxa,D::g9:rwxa"}, deskRow{"do unlink /f", "ok"}, deskRow{"nfs /f", "error 6"})
+}
+
+// Behind nfs stands one path, in which there is no blank: with one anywhere it is no line, whatever the path leads to.
+func TestNfsTakesOneWord(t *testing.T) {
+	made := []string{"do mkdir 0750 /d", "do create 0640 /d/f", "do symlink d /l"}
+	paths := []string{"/", "/d", "/d/f", "/d/", "/l", "/l/f", "//d//f", "/none", "/none/x", "/d/f/x", "x", "", "/" + part13}
+	for _, path := range paths {
+		if got := wantToldTwice(t, deskOf(append(slices.Clone(made), "nfs "+path))); got.Code != impl.OK || strings.Count(got.Text, "\n") != 4 {
+			t.Errorf("nfs %s: got %+v", path, got)
+		}
+		for i := range len(path) + 1 {
+			for _, blanks := range []string{" ", "  ", " \t", "\t ", " / ", " x "} {
+				line := "nfs " + path[:i] + blanks + path[i:]
+				wantNoDesk(t, 0, line)
+				wantNoDesk(t, 3, append(slices.Clone(made), line)...)
+				wantNoDesk(t, 3, append(slices.Clone(made), line, "nfs /", "what")...)
+			}
+		}
+		for _, other := range append(slices.Clone(paths), "0:0:", "do", "list /") {
+			wantNoDesk(t, 1, "nfs /", "nfs "+path+" "+other)
+		}
+	}
+	// Also where the line is as long as a text may be.
+	full := "nfs / " + strings.Repeat("x", impl.MaxBytes-7) + "\n"
+	wantDesk(t, full, impl.DeskOut{Code: impl.ErrSyntax})
+	wantDesk(t, "x"+full, impl.DeskOut{Code: impl.ErrSize})
+	// What stands behind do may have blanks wherever it likes; it is told when it is done.
+	wantRows(t, deskRow{"do list / /", "error 3"}, deskRow{"do nfs / x", "error 3"}, deskRow{"do  ", "error 3"}, deskRow{"do list  /", "error 3"})
 }
 
 // nfs is NfsText of ToNfs of the list, whichever that is.
@@ -203,7 +231,7 @@ func TestWhatIsNoLineOfADesk(t *testing.T) {
 
 // Of several faults the first line is named, whatever it is that is wrong there.
 func TestWhichLineIsNamed(t *testing.T) {
-	none := []string{"", "what", "do", " do list /", "as 0:0", "umask 22"}
+	none := []string{"", "what", "do", " do list /", "as 0:0", "umask 22", "nfs / /"}
 	for i, first := range none {
 		for _, second := range none {
 			for at := range int64(5) {

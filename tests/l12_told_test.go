@@ -22,6 +22,7 @@ var (
 	deskShape = regexp.MustCompile(`(?s)^(as|do|nfs|umask) (.*)$`)
 	credShape = regexp.MustCompile(`^([0-9]+):([0-9]+):([0-9,]*)(\*?)$`)
 	octShape  = regexp.MustCompile(`^[0-7]{4}$`)
+	oneWord   = regexp.MustCompile(`^[^ ]*$`)
 )
 
 // newTable has a tree that is written out: no call made it.
@@ -70,6 +71,7 @@ func (d table) after(line string) (table, string, bool) {
 		d.tree = out.Tree
 	case "nfs":
 		w := ownWalk(d.tree, d.c, m[2], true)
+		ok = oneWord.MatchString(m[2])
 		switch {
 		case w.Code != impl.OK:
 			told = fmt.Sprintf("error %d", w.Code)
@@ -135,7 +137,7 @@ func deskOf(lines []string) string {
 	return text
 }
 
-// deskLine draws a line that is one, upon a table: what stands behind do and nfs may be wrong.
+// deskLine draws a line that is one, upon a table: the line behind do, and the path behind nfs, may be wrong.
 func (s *steps) deskLine(d table) string {
 	if d.tree.Now == 0 && s.next(3) > 0 {
 		return "do chmod " + []string{"0777", "1777", "3777"}[s.next(3)] + " /"
@@ -162,7 +164,7 @@ func (s *steps) oneLine(line string) string {
 }
 
 func wrongPaths() []string {
-	return []string{"", "x", "/a /b", "/" + part13}
+	return []string{"", "x", "/a\t/b", "/" + part13}
 }
 
 // deskLines draws lines, each upon what the ones ahead leave.
@@ -182,7 +184,8 @@ func noDeskLines() []string {
 	out := []string{"", " ", "\t", "\r", "/", "list /", "stat /", "mkdir 0777 /d", "AS 0:0:", "As 0:0:", "a 0:0:", "ass 0:0:", "su 0:0:", "d list /", "don list /", "DO list /", "Do list /", "nf /", "nfs4 /", "NFS /", "umas 0022", "umasks 0022", "UMASK 0022", "error 3", "ok", "#", "# as 0:0:",
 		"as", "do", "nfs", "umask", "as\t0:0:", "do\tlist /", "nfs\t/", "umask\t0022", "as:0:0:", "do/list", "nfs/", "umask0022", "do\u00a0list /", "\xffdo list /", "do\x00 list /", "\ufeffdo list /",
 		"as ", "as 0", "as 0:0", "as 0:0:,", "as 0:0:**", "as *", "as 0:0: ", "as  0:0:", "as 0:0:*\r", "as 0:0:\t", "as root", "as 00:0:", "as 10000:0:", "as 0:10000:", "as 0:0:10000", "as 0:0:2,1", "as 0:0:1,1", "as -1:0:", "as 0:0:0,1,2,3,4,5,6,7,8", "as 1:2:3 x", "as x 1:2:3",
-		"umask ", "umask 0", "umask 22", "umask 022", "umask 00022", "umask 0028", "umask 9999", "umask  0022", "umask 0022 ", "umask 0022\r", "umask 0o22", "umask -022", "umask +022", "umask rwxr-xr-x", "umask 0022 0022", "umask u=rwx", "umask \u0660\u0660\u0662\u0662"}
+		"umask ", "umask 0", "umask 22", "umask 022", "umask 00022", "umask 0028", "umask 9999", "umask  0022", "umask 0022 ", "umask 0022\r", "umask 0o22", "umask -022", "umask +022", "umask rwxr-xr-x", "umask 0022 0022", "umask u=rwx", "umask \u0660\u0660\u0662\u0662",
+		"nfs / x", "nfs / /", "nfs / ", "nfs  /", "nfs  ", "nfs   ", "nfs x ", "nfs  x", "nfs x y", "nfs /d /d", "nfs /a b c", "nfs /\t ", "nfs \t /", "nfs / \r", "nfs /none x", "nfs /" + part13 + " x", "nfs nfs /", "nfs as 0:0:", "nfs /ado list  /", "nfs /" + strings.Repeat("a/", 30) + " "}
 	for _, line := range rightDeskLines() {
 		word, rest, _ := strings.Cut(line, " ")
 		out = append(out, " "+line, "\t"+line, "x "+line, "0:0: "+line, word, word+"\t"+rest, word+rest, strings.ToUpper(word)+" "+rest, strings.ToUpper(word[:1])+line[1:])
